@@ -1,7 +1,6 @@
 package tests
 
 import (
-	"fmt"
 	"slices"
 	"testing"
 
@@ -200,24 +199,33 @@ func TestBuiltinFreshNumbers(t *testing.T) {
 	}
 }
 
-// No effect has a variable with a number beyond MaxVar.
+// New variables go on beyond MaxVar: their numbers are no limit.
 func TestBuiltinFreshBeyond(t *testing.T) {
 	x := varTerm(3)
-	for made := range 5 {
+	for made := 1; made <= impl.MaxArity; made++ {
 		for fresh := impl.MaxVar - 5; fresh <= impl.MaxVar; fresh++ {
-			want := impl.CodeOK
-			if fresh+made-1 > impl.MaxVar {
-				want = impl.CodeLimit
-			}
-			calls := map[string][][]impl.Cell{
-				"functor": {x, atomTerm("f"), intTerm(made)}, "length": {x, intTerm(made)}, "copy_term": {listTerm(varsFrom(0, made)...), x},
-			}
-			for name, args := range calls {
-				e, code := impl.Builtin(impl.DefaultOps(), []byte(name), args, fresh)
-				if code != want || code != impl.CodeOK && showEffect(e, 0) != showEffect(impl.Effect{}, 0) {
-					t.Errorf("%s, %s", fmt.Sprint(name, " of ", made, " from ", fresh), showEffect(e, code))
-				}
-			}
+			wantFresh(t, fresh, x, compTerm("f", varsFrom(fresh, made)...), "functor", x, atomTerm("f"), intTerm(made))
+			wantFresh(t, fresh, x, listTerm(varsFrom(fresh, made)...), "length", x, intTerm(made))
+			wantFresh(t, fresh, x, listTerm(varsFrom(fresh, made)...), "copy_term", listTerm(varsFrom(0, made)...), x)
 		}
+	}
+	most := varsFrom(impl.MaxVar, impl.MaxLength)
+	wantFresh(t, impl.MaxVar, x, listTerm(most...), "length", x, intTerm(impl.MaxLength))
+	wantFresh(t, impl.MaxVar, x, compTerm("f", varTerm(impl.MaxVar), varTerm(impl.MaxVar+1), varTerm(impl.MaxVar)), "copy_term", compTerm("f", varTerm(impl.MaxVar), varTerm(0), varTerm(impl.MaxVar)), x)
+	// A copy may have as many variables as a term has cells.
+	wide := wideOf(varTerm(0), varsFrom(0, 900)...)
+	wantFresh(t, impl.MaxVar, x, shifted(impl.Renumber(wide), impl.MaxVar), "copy_term", wide, x)
+	if e, code := impl.Builtin(impl.DefaultOps(), []byte("=.."), [][]impl.Cell{chain(impl.MaxCells), x}, impl.MaxVar); code != impl.CodeLimit {
+		t.Errorf("too many cells: %.200s", showEffect(e, code))
+	}
+}
+
+// wantFresh asks that the effect is one pair, with new variables from fresh on.
+func wantFresh(t *testing.T, fresh int, left []impl.Cell, right []impl.Cell, name string, args ...[]impl.Cell) {
+	t.Helper()
+	e, code := impl.Builtin(impl.DefaultOps(), []byte(name), args, fresh)
+	want := impl.Effect{Left: [][]impl.Cell{left}, Right: [][]impl.Cell{right}}
+	if got := showEffect(e, code); got != showEffect(want, impl.CodeOK) {
+		t.Errorf("%.200s from %d: %.400s", showCall(name, args...), fresh, got)
 	}
 }

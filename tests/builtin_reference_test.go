@@ -37,6 +37,15 @@ type refCall struct {
 	fresh int
 }
 
+func isBeyondLimits(x []impl.Cell) bool {
+	for _, c := range x {
+		if len(c.Text) > impl.MaxAtom {
+			return true
+		}
+	}
+	return len(x) > impl.MaxCells
+}
+
 func refBuiltin(name string, args [][]impl.Cell, fresh int) (e impl.Effect, code int) {
 	defer func() {
 		if r := recover(); r != nil {
@@ -50,7 +59,7 @@ func refBuiltin(name string, args [][]impl.Cell, fresh int) (e impl.Effect, code
 			}
 		}
 		for _, x := range effectLists(e) {
-			if len(x) > 0 && !impl.ValidTerm(x) {
+			if isBeyondLimits(x) {
 				e, code = impl.Effect{}, impl.CodeLimit
 				return
 			}
@@ -477,7 +486,11 @@ func TestBuiltinReferenceMixed(t *testing.T) {
 		for range builtinArities[name] {
 			args = append(args, mixedArgument(&d))
 		}
-		wantAsReference(t, name, args, d.below(100))
+		fresh := d.below(100)
+		if d.below(4) == 0 {
+			fresh = impl.MaxVar - fresh
+		}
+		wantAsReference(t, name, args, fresh)
 	}
 }
 
