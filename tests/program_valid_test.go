@@ -118,6 +118,9 @@ func TestValidClauses(t *testing.T) {
 	} {
 		wantValid(t, clause, programWith(pred("p", 1, clause)), true)
 	}
+	for _, clause := range []string{"X0 :- true", "1 :- true", "''(a) :- true", "a :- true", "[] :- true"} {
+		wantValid(t, clause, programWith(pred("", 0, clause)), false)
+	}
 	for i, bad := range badTerms() {
 		clauses := [][]impl.Cell{parsed("p(a) :- true"), bad}
 		wantValid(t, showCells(bad), programWith(impl.Pred{Name: []byte("p"), Arity: 1, Clauses: clauses}), false)
