@@ -380,3 +380,72 @@ func nextMoment(t *testing.T, d *dice, now moment, past *[]moment) (moment, stri
 	wantUnwound(t, s, (*past)[to].store)
 	return (*past)[to], "unwind"
 }
+
+// spoiled is a store in which one thing or two may be wrong.
+func spoiled(d *dice) impl.Store {
+	s := mixedStore(d)
+	for range d.below(3) {
+		at := d.below(len(s.Cells))
+		switch d.below(5) {
+		case 0:
+			s.Cells[at].N += d.below(7) - 3
+		case 1:
+			s.Cells[at].Kind = d.below(7) - 1
+		case 2:
+			s.Cells[at].Text = []byte("g")
+		case 3:
+			s.Cells = slices.Delete(s.Cells, at, at+1)
+			s.Cells = append(s.Cells, badWords()[d.below(len(badWords()))])[:len(s.Cells)+d.below(2)]
+		case 4:
+			s.Trail = append(s.Trail, d.below(len(s.Cells)+2)-1)
+		}
+		if len(s.Cells) == 0 {
+			return s
+		}
+	}
+	return s
+}
+
+// wantBadTogether asks that all functions take what ValidStore says is valid, and nothing else.
+func wantBadTogether(t *testing.T, s impl.Store, w impl.Cell) bool {
+	t.Helper()
+	isValid, isStore := impl.ValidStore(s, w), impl.ValidStore(s, intWord(1))
+	_, deref := impl.Deref(s, w)
+	_, get := impl.GetTerm(s, w)
+	_, unify := impl.UnifyStore(s, intWord(1), w)
+	_, turned := impl.UnifyStore(s, w, intWord(1))
+	for i, code := range []int{deref, get, unify, turned} {
+		if (code != impl.CodeBad) != isValid {
+			t.Errorf("%s, %s: function %d answers %d", showStore(s), showWord(w), i, code)
+		}
+	}
+	_, _, put := impl.PutTerm(s, atomTerm("a"))
+	_, unwind := impl.Unwind(s, len(s.Trail), len(s.Cells))
+	for i, code := range []int{put, unwind} {
+		if (code == impl.CodeOK) != isStore || (code == impl.CodeBad) == isStore {
+			t.Errorf("%s: function %d answers %d", showStore(s), i, code)
+		}
+	}
+	for a := -1; a <= len(s.Cells); a++ {
+		if _, code := impl.BindCell(s, a, w); !isValid && code != impl.CodeBad {
+			t.Errorf("%s, %d to %s: %d", showStore(s), a, showWord(w), code)
+		}
+	}
+	return isValid
+}
+
+func TestSpoiledStores(t *testing.T) {
+	d := dice(110)
+	counts := map[bool]int{}
+	for range 20000 {
+		s := spoiled(&d)
+		w := impl.Cell{Kind: d.below(6) - d.below(8)/7, N: d.below(len(s.Cells) + 1)}
+		if d.below(2) == 0 {
+			w = anyWord(&d, s)
+		}
+		counts[wantBadTogether(t, s, w)]++
+	}
+	if counts[true] < 2000 || counts[false] < 2000 {
+		t.Errorf("%v", counts)
+	}
+}
