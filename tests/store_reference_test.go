@@ -106,8 +106,12 @@ type refStore struct {
 	impl.Store
 }
 
+func isSameWord(a impl.Cell, b impl.Cell) bool {
+	return a.Kind == b.Kind && a.N == b.N && string(a.Text) == string(b.Text)
+}
+
 func (s *refStore) deref(w impl.Cell) impl.Cell {
-	for w.Kind == impl.WordRef && showWord(s.Cells[w.N]) != showWord(w) {
+	for w.Kind == impl.WordRef && !isSameWord(s.Cells[w.N], w) {
 		w = s.Cells[w.N]
 	}
 	return w
@@ -184,12 +188,12 @@ func (s *refStore) unify(a impl.Cell, b impl.Cell) int {
 		left = left[1:]
 		code := impl.CodeOK
 		switch {
-		case showWord(a) == showWord(b) && a.Kind != impl.WordStruct:
+		case isSameWord(a, b) && a.Kind != impl.WordStruct:
 		case a.Kind == impl.WordRef:
 			code = s.bind(a.N, b)
 		case b.Kind == impl.WordRef:
 			code = s.bind(b.N, a)
-		case a.Kind == impl.WordStruct && b.Kind == impl.WordStruct && showWord(s.Cells[a.N]) == showWord(s.Cells[b.N]):
+		case a.Kind == impl.WordStruct && b.Kind == impl.WordStruct && isSameWord(s.Cells[a.N], s.Cells[b.N]):
 			var pairs [][2]impl.Cell
 			for i := range s.Cells[a.N].N {
 				pairs = append(pairs, [2]impl.Cell{s.Cells[a.N+1+i], s.Cells[b.N+1+i]})
