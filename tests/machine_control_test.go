@@ -167,7 +167,7 @@ func TestMachineCall(t *testing.T) {
 // A called construct is a predicate of its variables: MaxArity of them, and the cut's barrier is not among these.
 func TestMachineCallVariables(t *testing.T) {
 	many := func(n int) string { return manyOf(n, ", ", numbered("X%d = %[1]d")) }
-	for n, want := range map[int]int{1: impl.CodeOK, 19: impl.CodeOK, 20: impl.CodeOK, 21: impl.CodeLimit, 40: impl.CodeLimit} {
+	for n, want := range map[int]int{1: impl.CodeOK, 19: impl.CodeOK, 20: impl.CodeOK, 21: impl.CodeLimit, 40: impl.CodeLimit, 300: impl.CodeLimit} {
 		if o := ranAll(t, "", many(n)); o.Code != want || len(o.Answers) != boolNumber(want == impl.CodeOK) {
 			t.Errorf("%d variables: %s", n, showOutcome(o))
 		}

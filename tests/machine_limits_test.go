@@ -165,35 +165,39 @@ func TestMachineHeapIsGivenBack(t *testing.T) {
 }
 
 // codeSize is how many instructions there are in a run of a query that is a construct with the variables X and Y.
-func codeSize(t *testing.T, query string) int {
+func codeSize(t *testing.T, query string, indexed bool) int {
 	t.Helper()
 	low, code := impl.LowerProgram(built(t, "goal(X, Y) :- "+query+"."))
 	if code != impl.CodeOK {
 		t.Fatalf("%s: %d", query, code)
 	}
-	return len(linked(t, query, low, true).Ins)
+	return len(linked(t, query, low, indexed).Ins)
 }
 
+// What a run makes is linked as its program is: with switches, and chains for them, or without.
 func TestMachineMaxCode(t *testing.T) {
 	fact := "p(" + manyOf(19, ", ", numbered("%d")) + ")"
-	for goal, size := range map[string]int{
-		"true":                          0, // nothing: the facts come to MaxCode themselves
-		"assertz(f(1, 2))":              3,
-		"asserta((p :- a))":             1,
-		"call((true, true))":            1,
-		"call((nl, nl))":                3,
-		"call(!)":                       3,
-		"call((nl ; nl))":               1 + 2 + 4, // no switch without arguments
-		"call((X = 1 ; X = 2))":         3 + 1 + 4 + 2*5,
-		"call(\\+ fail)":                1 + 2 + 5 + 1,
-		"assertz((p :- nl -> nl ; nl))": 1 + 2 + 5 + 2,
+	for goal, sizes := range map[string][2]int{
+		"true":                          {0, 0}, // the facts come to MaxCode themselves
+		"assertz(f(1, 2))":              {3, 3},
+		"asserta((p :- a))":             {1, 1},
+		"call((true, true))":            {1, 1},
+		"call((nl, nl))":                {3, 3},
+		"call(!)":                       {3, 3},
+		"call((nl ; nl))":               {1 + 2 + 4, 1 + 2 + 4}, // no switch where there are no arguments
+		"call((X = 1 ; X = 2))":         {3 + 2 + 2*5, 3 + 1 + 2*2 + 2*5},
+		"call(\\+ fail)":                {1 + 2 + 5 + 1, 1 + 2 + 5 + 1},
+		"assertz((p :- nl -> nl ; nl))": {1 + 2 + 5 + 2, 1 + 2 + 5 + 2},
+		"assertz((p(X) :- X = 1 ; nl))": {3 + 2 + 5 + 2, 3 + 1 + 2*2 + 5 + 2},
 	} {
-		query := func(twenties int, ones int) string {
-			return fmt.Sprintf("(between(1, %d, X), assertz(%s), fail ; between(1, %d, Y), assertz(q), fail ; true), %s", twenties, fact, ones, goal)
+		for i, indexed := range []bool{false, true} {
+			query := func(twenties int, ones int) string {
+				return fmt.Sprintf("(between(1, %d, X), assertz(%s), fail ; between(1, %d, Y), assertz(q), fail ; true), %s", twenties, fact, ones, goal)
+			}
+			left := impl.MaxCode - codeSize(t, query(0, 0), indexed) - sizes[i]
+			with := func(ones int) impl.Outcome { return ran(t, "", query(left/20, ones), 1, impl.MaxFuel, indexed) }
+			wantRunEdge(t, goal, with(left%20), with(left%20+1), impl.CodeMemory)
 		}
-		left := impl.MaxCode - codeSize(t, query(0, 0)) - size
-		with := func(ones int) impl.Outcome { return ran(t, "", query(left/20, ones), 1, impl.MaxFuel, true) }
-		wantRunEdge(t, goal, with(left%20), with(left%20+1), impl.CodeMemory)
 	}
 }
 
@@ -328,7 +332,13 @@ func TestMachineCalledTooGreat(t *testing.T) {
 		return compTerm("asserta", compTerm(":-", atomTerm("h"), both))
 	})
 	// = of the list and [], twice
-	wantLargest(t, "the goal of a phrase", 997, func(n int) []impl.Cell { return compTerm("phrase", parsed("[] ; []"), wideCells(n)) })
+	phrase := func(n int) []impl.Cell { return compTerm("phrase", parsed("[] ; []"), wideCells(n)) }
+	wantLargest(t, "the goal of a phrase", 997, phrase)
+	// It is not put on the heap then: there is nothing but the query.
+	asked := impl.RunMachine(impl.DefaultOps(), impl.Program{}, phrase(998), 0, 0, true)
+	if o := ofCells(t, phrase(998)); o.Cells != asked.Cells {
+		t.Errorf("the goal of a phrase: %d cells, want %d", o.Cells, asked.Cells)
+	}
 	for n, want := range map[int]int{256: impl.CodeMore, 257: impl.CodeLimit} {
 		// The outermost one has the register of the argument; each within needs one of its own.
 		deep := within(atomTerm("x"), "f", n)
