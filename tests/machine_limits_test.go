@@ -97,6 +97,8 @@ func TestMachineMaxNest(t *testing.T) {
 	}
 	wantRunEdge(t, "runs within each other", with(impl.MaxNest, "true"), with(impl.MaxNest+1, "true"), impl.CodeMemory)
 	wantRunEdge(t, "a further one", with(impl.MaxNest-1, "findall(x, true, L)"), with(impl.MaxNest, "findall(x, true, L)"), impl.CodeMemory)
+	// It is looked at before the goal is.
+	wantRunEdge(t, "one that comes to nothing", with(impl.MaxNest-1, "findall(x, fail, L)"), with(impl.MaxNest, "findall(x, fail, L)"), impl.CodeMemory)
 	// Those behind each other are not within each other.
 	if o := ranAll(t, manyFacts, "between(1, 50, X), findall(Y, q(Y), L), X >= 50"); told(o) != "50 _0 [1,2] | no" {
 		t.Error(told(o))
@@ -376,7 +378,11 @@ func TestMachineMoreThanPrograms(t *testing.T) {
 	if told(o) != "no | 1400" {
 		t.Error(told(o))
 	}
-	// MaxClauses more than a program may have, and its own beside them
+	// So may one clause alone.
+	o = ranAll(t, "", manyOf(impl.MaxPreds+1, ", ", func(int) string { return "\\+ fail" }))
+	if told(o) != "yes | no" {
+		t.Error(told(o))
+	}
 	program := manyOf(20, " ", numbered("q(%d)."))
 	o = ranAll(t, program, "q(_), between(1, 150, X), assertz(p(X)), fail ; p(X), X > 149, write(X), fail")
 	if told(o) != "no | "+strings.Repeat("150", 20) {
