@@ -128,6 +128,7 @@ func filled(t *testing.T, more int, goal string) impl.Outcome {
 
 // What is put there is put whole, and only then looked at. The goals put so many cells at once, and no more behind them.
 func TestMachineMaxHeap(t *testing.T) {
+	t.Parallel()
 	for goal, size := range map[string]int{
 		"putvoid": 1, "putvar": 1, "putstruct": 4, "nested": 2, "get(Z)": 3, "functor(Z, f, 20)": 21, "length(Z, 4)": 12, "copy_term(Y, Z)": 1,
 		"findall(x, q(_), Z)": 6, "catch(throw(f(a, b)), Z, true)": 3, "phrase([], Z)": 3, "retract(one(Z))": 5, "phrase([a], Z, Y)": 6,
@@ -147,6 +148,15 @@ func TestMachineMaxHeap(t *testing.T) {
 		if o := filled(t, missing+size+1, goal); o.Code != impl.CodeMemory || o.Cells <= impl.MaxHeap || o.Cells > impl.MaxHeap+16 {
 			t.Errorf("%s, no room ahead: %.300s with %d", goal, told(o), o.Cells)
 		}
+	}
+}
+
+// Each variable that is bound has a cell, so that the trail is full when the heap is, and not before: here all cells are
+// bound, one in four steps.
+func TestMachineMaxTrail(t *testing.T) {
+	o := ranAll(t, "r :- _ = a, r.", "r")
+	if o.Code != impl.CodeMemory || o.Cells != impl.MaxHeap+1 || o.Steps != 4*impl.MaxHeap+1 {
+		t.Error(showOutcome(o))
 	}
 }
 
@@ -178,6 +188,7 @@ func codeSize(t *testing.T, query string, indexed bool) int {
 
 // What a run makes is linked as its program is: with switches, and chains for them, or without.
 func TestMachineMaxCode(t *testing.T) {
+	t.Parallel()
 	fact := "p(" + manyOf(19, ", ", numbered("%d")) + ")"
 	for goal, sizes := range map[string][2]int{
 		"true":                          {0, 0}, // the facts come to MaxCode themselves

@@ -32,6 +32,7 @@ func wantSameIndexed(t *testing.T, p impl.Program, query []impl.Cell, most int) 
 var firstArguments = []string{"X", "a", "b", "f", "1", "2", "-1", "[]", "f(X)", "f(a)", "f(b)", "f(X, Y)", "g(X)", "[X]", "[a|X]", "'1'", "f(f(X))", "0"}
 
 func TestMachineIndexedByFirstArguments(t *testing.T) {
+	t.Parallel()
 	fewer := 0
 	for i, first := range firstArguments {
 		for k, second := range firstArguments {
@@ -51,6 +52,7 @@ func TestMachineIndexedByFirstArguments(t *testing.T) {
 }
 
 func TestMachineIndexedPrograms(t *testing.T) {
+	t.Parallel()
 	d := dice(115)
 	ended := 0
 	for range 300 {
@@ -90,6 +92,7 @@ func promiseRuns() []runs {
 }
 
 func TestMachineFuel(t *testing.T) {
+	t.Parallel()
 	for _, c := range promiseRuns() {
 		for _, indexed := range []bool{true, false} {
 			whole := ran(t, c.program, c.query, impl.MaxAnswers, 400, indexed)

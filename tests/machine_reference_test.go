@@ -817,6 +817,7 @@ func wantAsRefRun(t *testing.T, images []refImage, query string, most int, fuel 
 }
 
 func TestMachineReference(t *testing.T) {
+	t.Parallel()
 	d := dice(111)
 	codes := map[int]int{}
 	images := refImages(built(t, machineFacts))
@@ -851,6 +852,7 @@ func mixedClauses(d *dice) string {
 }
 
 func TestMachineReferencePrograms(t *testing.T) {
+	t.Parallel()
 	d := dice(112)
 	codes := map[int]int{}
 	for range 400 {
@@ -868,6 +870,7 @@ func TestMachineReferencePrograms(t *testing.T) {
 
 // What a search over goals finds, which knows nothing of code, the machine finds.
 func TestMachineMeansWhatIsSearched(t *testing.T) {
+	t.Parallel()
 	d := dice(113)
 	ended := 0
 	for range 1500 {
