@@ -134,6 +134,58 @@ func TestMachineFaultsOfAssert(t *testing.T) {
 	}
 }
 
+// goalsOf is a body of so many goals that are the same.
+func goalsOf(goal string, n int) string {
+	return manyOf(n, ", ", func(int) string { return goal })
+}
+
+// The errors of a head or a body come ahead of the limits, which are those of a clause that is put.
+func TestMachineFaultsOfAssertAheadOfLimits(t *testing.T) {
+	const facts = ":- dynamic d/1. p(1). e. two :- a ; b. "
+	static := map[string]string{
+		"p(1)": "p/1", "p(X)": "p/1", "e": "e/0", "two": "two/0", "true": "true/0", "call(1)": "call/1", "atom(a)": "atom/1", "halt": "halt/0",
+		"!": "!/0", "(a , b)": "(',')/2", "once(a)": "once/1", "(a --> b)": "(-->)/2", "(a :- b)": "(:-)/2", "'$1'": "'$1'/0", "[]": "[]/0",
+	}
+	// The normal body has 3 n - 1 cells: 666 make a clause of MaxCells with z(1), 667 have MaxCells themselves.
+	for n, put := range map[int]string{1: "_0 | no", 666: "_0 | no", 667: "limit", 668: "limit", 700: "limit", 900: "limit"} {
+		for _, name := range []string{"asserta", "assertz"} {
+			asserted := func(head string) string { return name + "((" + head + " :- " + goalsOf("X", n) + "))" }
+			ball := func(fault string) string { return "ball error(" + fault + "," + name + "/1)" }
+			for head, indicator := range static {
+				wantRuns(t, []runs{{facts, asserted(head), ball("permission_error(modify,static_procedure," + indicator + ")")}})
+			}
+			wantRuns(t, []runs{
+				{facts, asserted("z(1)"), put},
+				{facts, asserted("d(1)"), put},
+				{facts, asserted("Y"), ball("instantiation_error")},
+				{facts, asserted("3"), ball("type_error(callable,3)")},
+			})
+		}
+	}
+}
+
+// Whatever makes the normal body too great; an error of the body comes ahead of one that the head may not be changed.
+func TestMachineFaultsOfAssertGreatBodies(t *testing.T) {
+	const facts = ":- dynamic d/1. p(1). on(T) :- write(a), assertz(T). "
+	permission, kind := ", error(permission_error(_, _, P), _), (write(P), halt))", ", error(type_error(K, _), _), (write(K), halt))"
+	for _, body := range []string{goalsOf("X", 700), goalsOf("once(X)", 450), goalsOf("forall(a, b)", 400), goalsOf("\\+ (X -> b)", 360)} {
+		wantRuns(t, []runs{
+			{facts, "assertz((p(1) :- " + body + "))", "ball error(permission_error(modify,static_procedure,p/1),assertz/1)"},
+			{facts, "assertz((d(1) :- " + body + "))", "limit"},
+			{facts, "assertz((z(1) :- " + body + "))", "limit"},
+			{facts, "on((p(1) :- " + body + "))", "ball error(permission_error(modify,static_procedure,p/1),assertz/1) | a"},
+			{facts, "on((z(1) :- " + body + "))", "limit | a"},
+			{facts, "catch(assertz((p(1) :- " + body + "))" + permission, "halt | p/1"},
+			{facts, "catch(findall(x, assertz((p(1) :- " + body + ")), _)" + permission, "halt | p/1"},
+			{facts, "catch(assertz((d(1) :- " + body + "))" + permission, "limit"},
+			{facts, "catch(assertz((p(1) :- " + body + ", 7))" + kind, "halt | callable"},
+			{facts, "catch(assertz((d(1) :- " + body + ", 7))" + kind, "halt | callable"},
+			{facts, "retract((p(1) :- " + body + "))", "ball error(permission_error(modify,static_procedure,p/1),retract/1)"},
+			{facts, "retract((d(1) :- " + body + "))", "no"},
+		})
+	}
+}
+
 func TestMachineFaultsOfRetract(t *testing.T) {
 	const facts = ":- dynamic d/1. d(1). p(1). p(2) :- q ; r. "
 	wantRuns(t, []runs{

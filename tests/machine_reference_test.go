@@ -703,7 +703,7 @@ func (m *refMachine) change(name string) bool {
 		return m.fault(atomTerm("type_error"), atomTerm("callable"), head)
 	}
 	normal, code := refMade(func() []impl.Cell { return refNormal(body) })
-	if name != "retract/1" && code != impl.CodeOK {
+	if name != "retract/1" && code == impl.CodeFail {
 		return m.fault(atomTerm("type_error"), atomTerm("callable"), body)
 	}
 	q := m.procs[shape(head)]
@@ -713,6 +713,7 @@ func (m *refMachine) change(name string) bool {
 	if name == "retract/1" {
 		return q != nil && m.alternatives("retract", q)
 	}
+	stopIf(code != impl.CodeOK, code)
 	if q == nil {
 		q = &refProc{dynamic: true}
 		m.procs[shape(head)] = q
@@ -829,6 +830,23 @@ func TestMachineReference(t *testing.T) {
 		}
 	}
 	wantOften(t, codes, impl.CodeOK, impl.CodeError, impl.CodeMore, impl.CodeFuel)
+}
+
+// Bodies whose normal bodies are too great, with heads that may be changed and heads that may not.
+func TestMachineReferenceGreatBodies(t *testing.T) {
+	t.Parallel()
+	codes := map[int]int{}
+	images := refImages(built(t, machineFacts))
+	for _, body := range []string{goalsOf("X", 700), goalsOf("forall(a, b)", 400), goalsOf("X", 700) + ", 1"} {
+		for _, head := range []string{"q(1)", "d(X)", "z", "true", "Z", "3"} {
+			for _, name := range []string{"asserta", "assertz"} {
+				codes[wantAsRefRun(t, images, fmt.Sprintf("%s((%s :- %s))", name, head, body), 3, 100).Code]++
+			}
+		}
+	}
+	if codes[impl.CodeError] != 28 || codes[impl.CodeLimit] != 8 {
+		t.Errorf("codes %v", codes)
+	}
 }
 
 // mixedClauses are clauses whose heads differ in their first arguments, with bodies of all sorts.
