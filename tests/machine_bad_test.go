@@ -69,15 +69,19 @@ func badPrograms() []impl.Program {
 	return all
 }
 
-// A code of lowering or linking is that of the run, before anything of it.
-func TestMachineProgramsBeyondLimits(t *testing.T) {
-	ops, query := impl.DefaultOps(), atomTerm("true")
-	beyond := map[string]string{
+// programsBeyondLimits are valid, but have no code.
+func programsBeyondLimits() map[string]string {
+	return map[string]string{
 		"a new predicate of 21 arguments": "p :- (q(" + manyOf(20, ", ", numbered("X%d")) + "), r(X20) ; s).",
 		"too many new predicates":         manyOf(151, " ", numbered("p%d :- (a ; b).")),
 		"too many registers":              "p :- q(" + strings.Repeat("f(", 257) + "x" + strings.Repeat(")", 257) + ").",
 	}
-	for what, src := range beyond {
+}
+
+// A code of lowering or linking is that of the run, before anything of it.
+func TestMachineProgramsBeyondLimits(t *testing.T) {
+	ops, query := impl.DefaultOps(), atomTerm("true")
+	for what, src := range programsBeyondLimits() {
 		wantOnlyCode(t, what, ops, built(t, src), query, 1, 100, impl.CodeLimit)
 		wantOnlyCode(t, what+", no answers", ops, built(t, src), query, 0, 0, impl.CodeLimit)
 		wantOnlyCode(t, what+", not valid beside it", ops, built(t, src), nil, 1, 100, impl.CodeBad)

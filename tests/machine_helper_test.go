@@ -76,10 +76,13 @@ type runs struct {
 	want    string
 }
 
-// wantRuns asks for the same with switches and without.
+// wantRuns asks for the same with switches and without, and of the search, which has other limits.
 func wantRuns(t *testing.T, cases []runs) {
 	t.Helper()
 	for _, c := range cases {
+		if !strings.HasPrefix(c.want, "limit") && !strings.HasPrefix(c.want, "memory") {
+			wantSolved(t, []runs{c})
+		}
 		for _, indexed := range []bool{true, false} {
 			o := ran(t, c.program, c.query, 50, 50000, indexed)
 			if got := told(o); got != c.want {

@@ -27,9 +27,10 @@ get(f(_, _)).
 put(_).
 `
 
-func TestMachineMaxOutput(t *testing.T) {
+// outputRuns are queries with how they end and how many bytes they write then.
+func outputRuns() map[string]string {
 	hundred := strings.Repeat("a", 100)
-	for query, want := range map[string]string{
+	return map[string]string{
 		"between(1, 40, _), write(" + hundred + "), fail":                                  "no 4000",
 		"between(1, 41, _), write(" + hundred + "), fail":                                  "memory 4100",
 		"between(1, 40, N), write(" + hundred + "), N > 39, nl":                            "memory 4001",
@@ -38,7 +39,11 @@ func TestMachineMaxOutput(t *testing.T) {
 		"between(1, 39, _), write(" + hundred + "), fail ; tab(99), tab(500)":              "memory 4499",
 		"between(1, 39, _), write(" + hundred + "), fail ; tab(99), writeq(f('A', [1|b]))": "memory 4011",
 		"findall(x, (between(1, 41, _), write(" + hundred + ")), _)":                       "memory 4100",
-	} {
+	}
+}
+
+func TestMachineMaxOutput(t *testing.T) {
+	for query, want := range outputRuns() {
 		o := ranAll(t, "", query)
 		if got := fmt.Sprintf("%s %d", codeWords[o.Code], len(o.Out)); got != want {
 			t.Errorf("%s: %s, want %s", query, got, want)
@@ -244,9 +249,9 @@ bad(T) :- catch(phrase((same(1, T), 7), []), _, true).
 more(T) :- phrase(([] ; []), T).
 `
 
-// great is the outcome of a goal whose last argument is a term of so many cells, which no query could have.
-func great(t *testing.T, cells int, goal string) impl.Outcome {
-	t.Helper()
+// greatProgram has the predicate on, which calls a goal with a term of so many cells, which no query could have, behind its
+// arguments.
+func greatProgram(cells int) string {
 	// A list of n items has 2 n + 1 cells.
 	made := fmt.Sprintf("sized(g(A, B)) :- length(A, 500), length(B, %d).", (cells-1003)/2)
 	if cells%2 == 0 {
@@ -255,7 +260,12 @@ func great(t *testing.T, cells int, goal string) impl.Outcome {
 	if cells < 1000 {
 		made = fmt.Sprintf("sized(%s) :- length(A, %d).", []string{"f(A)", "A"}[cells%2], (cells-1)/2)
 	}
-	return ran(t, greatFacts+made+" on(G) :- sized(T), call(G, T), write(done).", "on("+goal+")", 1, impl.MaxFuel, true)
+	return greatFacts + made + " on(G) :- sized(T), call(G, T), write(done)."
+}
+
+func great(t *testing.T, cells int, goal string) impl.Outcome {
+	t.Helper()
+	return ran(t, greatProgram(cells), "on("+goal+")", 1, impl.MaxFuel, true)
 }
 
 // A term that is taken from the heap has at most MaxCells cells; so have several that are taken all in one.

@@ -61,47 +61,68 @@ func wantUnsharedOutcome(t *testing.T, what string, o impl.Outcome) {
 	}
 }
 
+// runner is RunMachine or Solve.
+type runner func(ops []impl.Op, p impl.Program, query []impl.Cell) impl.Outcome
+
+// wantOwnMemory asks that a run writes into nothing that it is given, and that its outcome shares nothing with that.
+func wantOwnMemory(t *testing.T, c runs, run runner) {
+	t.Helper()
+	p, query := built(t, c.program), clauseTerm(c.query)
+	want := showOutcome(run(impl.DefaultOps(), p, query))
+	ops, opsStay := lendOps(impl.DefaultOps())
+	lent, programStays := lendProgram(p)
+	asked, queryStays := lend(query)
+	o := run(ops, lent, asked)
+	if showOutcome(o) != want {
+		t.Errorf("%s: another outcome", c.query)
+	}
+	if !opsStay() || !programStays() || !queryStays() {
+		t.Errorf("%s: written into", c.query)
+	}
+	overwriteOps(ops)
+	overwriteProgram(lent)
+	overwriteCells(asked)
+	if showOutcome(o) != want {
+		t.Errorf("%s: it changes with its arguments", c.query)
+	}
+	wantUnsharedOutcome(t, c.query, o)
+	if again := run(impl.DefaultOps(), p, query); showOutcome(again) != want {
+		t.Errorf("%s: another outcome the second time", c.query)
+	}
+}
+
+// wantOwnAnswers overwrites an outcome and asks that nothing that was given changes.
+func wantOwnAnswers(t *testing.T, c runs, run runner) {
+	t.Helper()
+	ops, opsStay := lendOps(impl.DefaultOps())
+	lent, programStays := lendProgram(built(t, c.program))
+	asked, queryStays := lend(clauseTerm(c.query))
+	o := run(ops, lent, asked)
+	overwrite(o.Out)
+	for _, cells := range outcomeLists(o) {
+		overwriteCells(cells)
+	}
+	if !opsStay() || !programStays() || !queryStays() {
+		t.Errorf("%s: an answer shares memory with an argument", c.query)
+	}
+}
+
+// machineRunner is RunMachine of ten answers.
+func machineRunner(indexed bool) runner {
+	return func(ops []impl.Op, p impl.Program, query []impl.Cell) impl.Outcome {
+		return impl.RunMachine(ops, p, query, 10, 1000, indexed)
+	}
+}
+
 func TestMachineMemory(t *testing.T) {
 	for _, c := range memoryRuns() {
-		for _, indexed := range []bool{true, false} {
-			p, query := built(t, c.program), clauseTerm(c.query)
-			want := showOutcome(impl.RunMachine(impl.DefaultOps(), p, query, 10, 1000, indexed))
-			ops, opsStay := lendOps(impl.DefaultOps())
-			lent, programStays := lendProgram(p)
-			asked, queryStays := lend(query)
-			o := impl.RunMachine(ops, lent, asked, 10, 1000, indexed)
-			if showOutcome(o) != want {
-				t.Errorf("%s: another outcome", c.query)
-			}
-			if !opsStay() || !programStays() || !queryStays() {
-				t.Errorf("%s: written into", c.query)
-			}
-			overwriteOps(ops)
-			overwriteProgram(lent)
-			overwriteCells(asked)
-			if showOutcome(o) != want {
-				t.Errorf("%s: it changes with its arguments", c.query)
-			}
-			wantUnsharedOutcome(t, c.query, o)
-			if again := impl.RunMachine(impl.DefaultOps(), p, query, 10, 1000, indexed); showOutcome(again) != want {
-				t.Errorf("%s: another outcome the second time", c.query)
-			}
-		}
+		wantOwnMemory(t, c, machineRunner(true))
+		wantOwnMemory(t, c, machineRunner(false))
 	}
 }
 
 func TestMachineAnswersAreNotArguments(t *testing.T) {
 	for _, c := range memoryRuns() {
-		ops, opsStay := lendOps(impl.DefaultOps())
-		lent, programStays := lendProgram(built(t, c.program))
-		asked, queryStays := lend(clauseTerm(c.query))
-		o := impl.RunMachine(ops, lent, asked, 10, 1000, true)
-		overwrite(o.Out)
-		for _, cells := range outcomeLists(o) {
-			overwriteCells(cells)
-		}
-		if !opsStay() || !programStays() || !queryStays() {
-			t.Errorf("%s: an answer shares memory with an argument", c.query)
-		}
+		wantOwnAnswers(t, c, machineRunner(true))
 	}
 }

@@ -91,25 +91,53 @@ func promiseRuns() []runs {
 	}
 }
 
+// wantFuelToAdd asks of runs with every amount of fuel that those with less are the beginning of those with more.
+func wantFuelToAdd(t *testing.T, what string, run func(fuel int) impl.Outcome) {
+	t.Helper()
+	whole := run(400)
+	before := impl.Outcome{}
+	for fuel := 0; fuel <= min(whole.Steps+2, 400); fuel++ {
+		o := run(fuel)
+		if !isBeginning(before, o) || !isBeginning(o, whole) || o.Choices > whole.Choices || o.Cells > whole.Cells {
+			t.Errorf("%s: %d steps: %s", what, fuel, showOutcome(o))
+		}
+		if fuel < whole.Steps && (o.Code != impl.CodeFuel || o.Steps != fuel || len(o.Ball) > 0) {
+			t.Errorf("%s: %d of %d steps: %s", what, fuel, whole.Steps, showOutcome(o))
+		}
+		if fuel >= whole.Steps && showOutcome(o) != showOutcome(whole) {
+			t.Errorf("%s: %d steps: %s, want %s", what, fuel, showOutcome(o), showOutcome(whole))
+		}
+		before = o
+	}
+}
+
+// wantMostToAdd asks the same of runs that are asked for any number of answers.
+func wantMostToAdd(t *testing.T, what string, run func(most int) impl.Outcome) {
+	t.Helper()
+	whole := run(impl.MaxAnswers)
+	before := impl.Outcome{}
+	for most := range len(whole.Answers) + 3 {
+		o := run(most)
+		if !isBeginning(before, o) || !isBeginning(o, whole) || o.Steps > whole.Steps {
+			t.Errorf("%s: %d answers: %s", what, most, showOutcome(o))
+		}
+		if most <= len(whole.Answers) && (o.Code != impl.CodeMore || len(o.Answers) != most || len(o.Ball) > 0) {
+			t.Errorf("%s: %d answers: %s", what, most, showOutcome(o))
+		}
+		if most > len(whole.Answers) && showOutcome(o) != showOutcome(whole) {
+			t.Errorf("%s: %d answers: %s, want %s", what, most, showOutcome(o), showOutcome(whole))
+		}
+		before = o
+	}
+}
+
 func TestMachineFuel(t *testing.T) {
 	t.Parallel()
 	for _, c := range promiseRuns() {
 		for _, indexed := range []bool{true, false} {
-			whole := ran(t, c.program, c.query, impl.MaxAnswers, 400, indexed)
-			before := impl.Outcome{}
-			for fuel := 0; fuel <= min(whole.Steps+2, 400); fuel++ {
-				o := ran(t, c.program, c.query, impl.MaxAnswers, fuel, indexed)
-				if !isBeginning(before, o) || !isBeginning(o, whole) || o.Choices > whole.Choices || o.Cells > whole.Cells {
-					t.Errorf("%s ?- %s: %d steps: %s", c.program, c.query, fuel, showOutcome(o))
-				}
-				if fuel < whole.Steps && (o.Code != impl.CodeFuel || o.Steps != fuel || len(o.Ball) > 0) {
-					t.Errorf("%s ?- %s: %d of %d steps: %s", c.program, c.query, fuel, whole.Steps, showOutcome(o))
-				}
-				if fuel >= whole.Steps && showOutcome(o) != showOutcome(whole) {
-					t.Errorf("%s ?- %s: %d steps: %s, want %s", c.program, c.query, fuel, showOutcome(o), showOutcome(whole))
-				}
-				before = o
-			}
+			wantFuelToAdd(t, c.program+" ?- "+c.query, func(fuel int) impl.Outcome {
+				return ran(t, c.program, c.query, impl.MaxAnswers, fuel, indexed)
+			})
 		}
 	}
 }
@@ -117,21 +145,9 @@ func TestMachineFuel(t *testing.T) {
 func TestMachineMost(t *testing.T) {
 	for _, c := range promiseRuns() {
 		for _, indexed := range []bool{true, false} {
-			whole := ran(t, c.program, c.query, impl.MaxAnswers, 400, indexed)
-			before := impl.Outcome{}
-			for most := range len(whole.Answers) + 3 {
-				o := ran(t, c.program, c.query, most, 400, indexed)
-				if !isBeginning(before, o) || !isBeginning(o, whole) || o.Steps > whole.Steps {
-					t.Errorf("%s ?- %s: %d answers: %s", c.program, c.query, most, showOutcome(o))
-				}
-				if most <= len(whole.Answers) && (o.Code != impl.CodeMore || len(o.Answers) != most || len(o.Ball) > 0) {
-					t.Errorf("%s ?- %s: %d answers: %s", c.program, c.query, most, showOutcome(o))
-				}
-				if most > len(whole.Answers) && showOutcome(o) != showOutcome(whole) {
-					t.Errorf("%s ?- %s: %d answers: %s, want %s", c.program, c.query, most, showOutcome(o), showOutcome(whole))
-				}
-				before = o
-			}
+			wantMostToAdd(t, c.program+" ?- "+c.query, func(most int) impl.Outcome {
+				return ran(t, c.program, c.query, most, 400, indexed)
+			})
 		}
 	}
 }
