@@ -319,6 +319,19 @@ func TestSolveMoreThanPrograms(t *testing.T) {
 	}
 }
 
+// A variable that stands in others is looked for in a term whose parts are there twice, again and again, but once in each.
+func TestSolveDoubledTerms(t *testing.T) {
+	const doubles = "d(0, X, X). d(N, X, Z) :- N > 0, M is N - 1, d(M, f(X, X), Z). "
+	wantSolved(t, []runs{
+		{doubles, "d(200, A, X), Z = g(Y), Y = X, throw(done)", "ball done"},
+		{doubles, "Z = g(A, Y), d(200, A, X), Y = X, throw(done)", "ball done"},
+		{doubles, "Z = g(A, Y), d(200, Y, X), Y = X, throw(done)", "cyclic"},
+		{doubles, "Z = g(A, Y), d(200, f(A, Y), X), A = X, throw(done)", "cyclic"},
+		{doubles, "d(200, A, X), d(200, B, Y), X = Y", "limit"},
+		{doubles, "d(200, A, X), write(X)", "limit"},
+	})
+}
+
 // Terms may grow as far as the fuel goes: what is made of them costs no more than what is new in it.
 func TestSolveGreatTerms(t *testing.T) {
 	t.Parallel()
